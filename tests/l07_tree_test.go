@@ -1420,6 +1420,44 @@ func asText(answer any) string {
 	return fmt.Sprintf("%+v", answer)
 }
 
+// memoryArguments are those of the functions of a chapter: with such room behind their lists as may tempt, and without.
+type memoryArguments[A any] interface {
+	roomy() A
+	tight() A
+}
+
+// wantLeft asks that arguments stay, their lists where they were, and that no answer hangs on the room behind these.
+func wantLeft[A memoryArguments[A]](t *testing.T, name string, x A, answer func(A) any) {
+	t.Helper()
+	wide := x.roomy()
+	lie, before := spansOf(reflect.ValueOf(wide)), withItsRoom(reflect.ValueOf(wide))
+	got := answer(wide)
+	if asText(got) != asText(answer(x.tight())) {
+		t.Fatalf("%s hangs on the room", name)
+	}
+	if !reflect.DeepEqual(withItsRoom(reflect.ValueOf(wide)).Interface(), before.Interface()) {
+		t.Fatalf("%s changed an argument", name)
+	}
+	if !slices.Equal(lie, spansOf(reflect.ValueOf(wide))) {
+		t.Fatalf("%s moved a list of an argument", name)
+	}
+}
+
+// wantNewMemory asks that an answer shares memory with no argument, with no answer ahead of it, and that no two of its lists share any.
+func wantNewMemory[A memoryArguments[A]](t *testing.T, name string, x A, answer func(A) any) {
+	t.Helper()
+	for what, given := range map[string]A{"with room": x.roomy(), "without": x.tight()} {
+		first := answer(given)
+		second := answer(given)
+		if sharesMemory(first, given, second) || sharesMemory(second, given) {
+			t.Fatalf("%s, %s, shares memory", name, what)
+		}
+		if asText(first) != asText(second) {
+			t.Fatalf("%s, %s, answers anew in another way", name, what)
+		}
+	}
+}
+
 func TestTreesLeaveTheirArguments(t *testing.T) {
 	batches := [][]impl.Write{nil, {{Key: "b", Value: "new"}, {Key: "a", Gone: true}}, {{Key: "b"}, {}}, batchOf(21)}
 	for name, x := range memoryTrees() {

@@ -5,7 +5,6 @@ import (
 	"math"
 	"math/big"
 	"math/rand"
-	"reflect"
 	"slices"
 	"sync"
 	"testing"
@@ -1455,32 +1454,13 @@ func trieCases(with func(name string, x trieArguments, answer func(trieArguments
 
 func TestTriesLeaveTheirArguments(t *testing.T) {
 	trieCases(func(name string, x trieArguments, answer func(trieArguments) any) {
-		wide := x.roomy()
-		lie, before := spansOf(reflect.ValueOf(wide)), withItsRoom(reflect.ValueOf(wide))
-		got := answer(wide)
-		if asText(got) != asText(answer(x.tight())) {
-			t.Fatalf("%s hangs on the room", name)
-		}
-		if !reflect.DeepEqual(withItsRoom(reflect.ValueOf(wide)).Interface(), before.Interface()) {
-			t.Fatalf("%s changed an argument", name)
-		}
-		if !slices.Equal(lie, spansOf(reflect.ValueOf(wide))) {
-			t.Fatalf("%s moved a list of an argument", name)
-		}
+		wantLeft(t, name, x, answer)
 	})
 }
 
 func TestTriesGiveNewMemory(t *testing.T) {
 	trieCases(func(name string, x trieArguments, answer func(trieArguments) any) {
-		wide := x.roomy()
-		first := answer(wide)
-		second := answer(wide)
-		if sharesMemory(first, wide, second) || sharesMemory(second, wide) {
-			t.Fatalf("%s shares memory", name)
-		}
-		if asText(first) != asText(second) {
-			t.Fatalf("%s answers anew in another way", name)
-		}
+		wantNewMemory(t, name, x, answer)
 	})
 }
 

@@ -5,7 +5,6 @@ import (
 	"math"
 	"math/big"
 	"math/rand"
-	"reflect"
 	"regexp"
 	"slices"
 	"strconv"
@@ -1206,33 +1205,13 @@ func bankCases(with func(name string, x bankArguments, answer func(bankArguments
 
 func TestBanksLeaveTheirArguments(t *testing.T) {
 	bankCases(func(name string, x bankArguments, answer func(bankArguments) any) {
-		wide := x.roomy()
-		lie, before := spansOf(reflect.ValueOf(wide)), withItsRoom(reflect.ValueOf(wide))
-		got := answer(wide)
-		if asText(got) != asText(answer(x.tight())) {
-			t.Fatalf("%s hangs on the room", name)
-		}
-		if !reflect.DeepEqual(withItsRoom(reflect.ValueOf(wide)).Interface(), before.Interface()) {
-			t.Fatalf("%s changed an argument", name)
-		}
-		if !slices.Equal(lie, spansOf(reflect.ValueOf(wide))) {
-			t.Fatalf("%s moved a list of an argument", name)
-		}
+		wantLeft(t, name, x, answer)
 	})
 }
 
 func TestBanksGiveNewMemory(t *testing.T) {
 	bankCases(func(name string, x bankArguments, answer func(bankArguments) any) {
-		for what, given := range map[string]bankArguments{"with room": x.roomy(), "without": x.tight()} {
-			first := answer(given)
-			second := answer(given)
-			if sharesMemory(first, given, second) || sharesMemory(second, given) {
-				t.Fatalf("%s, %s, shares memory", name, what)
-			}
-			if asText(first) != asText(second) {
-				t.Fatalf("%s, %s, answers anew in another way", name, what)
-			}
-		}
+		wantNewMemory(t, name, x, answer)
 	})
 }
 
